@@ -185,29 +185,36 @@ type seenStation struct {
 	length  int64
 }
 
-// nearestFirst is a heap with the least length on top.
-type nearestFirst []seenStation
+// pile is what heaps have in common: all but the order.
+type pile[E any] []E
 
-func (h nearestFirst) Len() int           { return len(h) }
-func (h nearestFirst) Less(i, j int) bool { return h[i].length < h[j].length }
-func (h nearestFirst) Swap(i, j int)      { h[i], h[j] = h[j], h[i] }
+// Len returns how many elements there are.
+func (p pile[E]) Len() int { return len(p) }
 
-// Push puts one more station at the end.
-func (h *nearestFirst) Push(x any) { *h = append(*h, x.(seenStation)) }
+// Swap exchanges two elements.
+func (p pile[E]) Swap(i, j int) { p[i], p[j] = p[j], p[i] }
 
-// Pop takes the station at the end.
-func (h *nearestFirst) Pop() any {
-	last := len(*h) - 1
-	x := (*h)[last]
-	*h = (*h)[:last]
+// Push puts one more element at the end.
+func (p *pile[E]) Push(x any) { *p = append(*p, x.(E)) }
+
+// Pop takes the element at the end.
+func (p *pile[E]) Pop() any {
+	last := len(*p) - 1
+	x := (*p)[last]
+	*p = (*p)[:last]
 	return x
 }
+
+// nearestFirst is a heap with the least length on top.
+type nearestFirst struct{ pile[seenStation] }
+
+func (h nearestFirst) Less(i, j int) bool { return h.pile[i].length < h.pile[j].length }
 
 // lengthsTo returns for each station the least length of a way from it to a station; -1 if there is none.
 func lengthsTo(n Net, to int64) []int64 {
 	tubes := tubesByTo(n)
 	lengths := slices.Repeat([]int64{-1}, int(n.Stations))
-	open := &nearestFirst{{station: to}}
+	open := &nearestFirst{pile[seenStation]{{station: to}}}
 	for open.Len() > 0 {
 		x := heap.Pop(open).(seenStation)
 		if lengths[x.station] >= 0 {
