@@ -246,9 +246,18 @@ func ShortestWay(n Net, from, to int64) ([]int64, int64) {
 	if code := checkStations(n, from, to); code != OK {
 		return nil, code
 	}
+	way, ok := shortestWay(n, from, to)
+	if !ok {
+		return nil, ErrNotFound
+	}
+	return way, OK
+}
+
+// shortestWay returns the first of the shortest ways, and whether there is one; tubes may be longer than in a valid network.
+func shortestWay(n Net, from, to int64) ([]int64, bool) {
 	lengths := lengthsTo(n, to)
 	if lengths[from] < 0 {
-		return nil, ErrNotFound
+		return nil, false
 	}
 	tubes := tubesByFrom(n)
 	// No shortest way is the beginning of another one, for each tube has a length:
@@ -263,7 +272,7 @@ func ShortestWay(n Net, from, to int64) ([]int64, int64) {
 		way = append(way, tube)
 		from = n.Tubes[tube].To
 	}
-	return way, OK
+	return way, true
 }
 
 // IsWay reports whether tubes follow one another from a station to another one.

@@ -29,6 +29,9 @@ func isEmptySlice(x any) bool {
 	return v.Kind() == reflect.Slice && v.Len() == 0
 }
 
+// isZero reports whether x is what stands beside an error.
+func isZero(x any) bool { return isEmptySlice(x) || reflect.ValueOf(x).IsZero() }
+
 // guarded returns a copy of list with unused capacity, and a function which reports whether list or this capacity has changed.
 func guarded[E any](list []E, filler E) ([]E, func() bool) {
 	room := append(slices.Clone(list), filler, filler, filler)

@@ -2,7 +2,6 @@ package tests
 
 import (
 	"fmt"
-	"reflect"
 	"slices"
 	"strings"
 	"testing"
@@ -252,8 +251,7 @@ func checkErrors(t *testing.T, n impl.Net, a, b, want int64, names ...string) {
 	calls := stationCalls(n, a, b)
 	for _, name := range names {
 		x := calls[name]
-		zero := isEmptySlice(x[0]) || reflect.ValueOf(x[0]).IsZero()
-		check(t, fmt.Sprint(name, n, a, b), []any{zero, x[1]}, []any{true, want})
+		check(t, fmt.Sprint(name, n, a, b), []any{isZero(x[0]), x[1]}, []any{true, want})
 	}
 }
 
