@@ -32,6 +32,19 @@ func isEmptySlice(x any) bool {
 // isZero reports whether x is what stands beside an error.
 func isZero(x any) bool { return isEmptySlice(x) || reflect.ValueOf(x).IsZero() }
 
+// checkErrorResults expects of calls, whose results end with the code, a code and zero values beside it.
+func checkErrorResults(t *testing.T, calls map[string][]any, want int64, names ...string) {
+	t.Helper()
+	for _, name := range names {
+		results := calls[name]
+		last := len(results) - 1
+		check(t, name, results[last], want)
+		for _, x := range results[:last] {
+			check(t, name, isZero(x), true)
+		}
+	}
+}
+
 // guarded returns a copy of list with unused capacity, and a function which reports whether list or this capacity has changed.
 func guarded[E any](list []E, filler E) ([]E, func() bool) {
 	room := append(slices.Clone(list), filler, filler, filler)

@@ -422,18 +422,6 @@ func routeCalls(n impl.Net, setting []int64, from, to int64, way []int64) map[st
 	return calls
 }
 
-func checkRouteErrors(t *testing.T, calls map[string][]any, want int64, names ...string) {
-	t.Helper()
-	for _, name := range names {
-		results := calls[name]
-		last := len(results) - 1
-		check(t, name, results[last], want)
-		for _, x := range results[:last] {
-			check(t, name, isZero(x), true)
-		}
-	}
-}
-
 var (
 	settingCalls = []string{"RouteOf", "EndOf", "CircleStations", "SetWay", "TurnsFor", "FewestTurns"}
 	clashCalls   = []string{"FirstClash of the first one", "FirstClash of the second one", "WaysFit"}
@@ -446,7 +434,7 @@ func TestRoutesOfInvalidNets(t *testing.T) {
 			for _, station := range []int64{0, -1, 11} {
 				for _, way := range [][]int64{nil, {0}, {-1}, {99}, {0, 0}} {
 					calls := routeCalls(n, setting, station, station, way)
-					checkRouteErrors(t, calls, impl.ErrInvalid, append(slices.Concat(settingCalls, clashCalls), "CountSettings")...)
+					checkErrorResults(t, calls, impl.ErrInvalid, append(slices.Concat(settingCalls, clashCalls), "CountSettings")...)
 				}
 			}
 		}
@@ -460,7 +448,7 @@ func TestInvalidSettings(t *testing.T) {
 	for _, setting := range invalidSettings() {
 		for _, station := range []int64{0, -1, 5} {
 			for _, way := range [][]int64{nil, {0}, {-1}, {0, 0}} {
-				checkRouteErrors(t, routeCalls(n, setting, station, station, way), impl.ErrInvalid, settingCalls...)
+				checkErrorResults(t, routeCalls(n, setting, station, station, way), impl.ErrInvalid, settingCalls...)
 			}
 		}
 	}
@@ -470,9 +458,9 @@ func TestRouteStationErrors(t *testing.T) {
 	n := net(t, ringText)
 	for _, setting := range [][]int64{{-1, -1, -1, -1, -1}, {0, 1, 2, 3, -1}, {0, 1, 4, 3, -1}} {
 		for _, station := range []int64{-1, 5, 10, math.MinInt64, math.MaxInt64} {
-			checkRouteErrors(t, routeCalls(n, setting, station, 0, nil), impl.ErrRange, "RouteOf", "EndOf", "FewestTurns")
-			checkRouteErrors(t, routeCalls(n, setting, 0, station, nil), impl.ErrRange, "RouteOf", "FewestTurns")
-			checkRouteErrors(t, routeCalls(n, setting, station, station, nil), impl.ErrRange, "RouteOf", "EndOf", "FewestTurns")
+			checkErrorResults(t, routeCalls(n, setting, station, 0, nil), impl.ErrRange, "RouteOf", "EndOf", "FewestTurns")
+			checkErrorResults(t, routeCalls(n, setting, 0, station, nil), impl.ErrRange, "RouteOf", "FewestTurns")
+			checkErrorResults(t, routeCalls(n, setting, station, station, nil), impl.ErrRange, "RouteOf", "EndOf", "FewestTurns")
 		}
 	}
 }
@@ -487,7 +475,7 @@ func TestSimpleWays(t *testing.T) {
 		}
 	}
 	for _, way := range otherWays() {
-		checkRouteErrors(t, routeCalls(n, setting, 0, 0, way), impl.ErrRange, wayCalls...)
+		checkErrorResults(t, routeCalls(n, setting, 0, 0, way), impl.ErrRange, wayCalls...)
 		// One of several ways, wherever it is, and also behind two that clash.
 		for place := range 20 {
 			ways := slices.Repeat([][]int64{{0}}, 20)
@@ -500,6 +488,6 @@ func TestSimpleWays(t *testing.T) {
 	}
 	parallel := net(t, "3: 0>1*1 0>1*1 1>2*1")
 	for _, way := range [][]int64{{0, 1}, {1, 0}, {0, 0}, {0, 1, 2}} {
-		checkRouteErrors(t, routeCalls(parallel, stopped(parallel), 0, 0, way), impl.ErrRange, wayCalls...)
+		checkErrorResults(t, routeCalls(parallel, stopped(parallel), 0, 0, way), impl.ErrRange, wayCalls...)
 	}
 }

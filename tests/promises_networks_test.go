@@ -172,6 +172,8 @@ func spoil(results []any) {
 		switch list := x.(type) {
 		case []int64:
 			fill(list[:cap(list)], -99)
+		case []string:
+			fill(list[:cap(list)], "spoilt")
 		case []impl.Tube:
 			fill(list[:cap(list)], impl.Tube{From: -99})
 		}
