@@ -176,6 +176,16 @@ func spoil(results []any) {
 			fill(list[:cap(list)], "spoilt")
 		case []impl.Tube:
 			fill(list[:cap(list)], impl.Tube{From: -99})
+		case [][]int64:
+			for _, row := range list {
+				fill(row[:cap(row)], -99)
+			}
+			fill(list[:cap(list)], nil)
+		case []impl.Run:
+			for _, x := range list {
+				fill(x.Way[:cap(x.Way)], -99)
+			}
+			fill(list[:cap(list)], impl.Run{Start: -99})
 		}
 	}
 }
