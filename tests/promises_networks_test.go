@@ -186,6 +186,10 @@ func spoil(results []any) {
 				fill(x.Way[:cap(x.Way)], -99)
 			}
 			fill(list[:cap(list)], impl.Run{Start: -99})
+		case []impl.Move:
+			fill(list[:cap(list)], move(-99, -99, -99))
+		case []impl.Seal:
+			fill(list[:cap(list)], seal(-99, -99))
 		}
 	}
 }
