@@ -1,6 +1,7 @@
 package tests
 
 import (
+	"fmt"
 	"math"
 	"math/rand/v2"
 	"reflect"
@@ -22,6 +23,12 @@ func check(t *testing.T, name string, got, want any) {
 	if !reflect.DeepEqual(got, want) {
 		t.Errorf("%s: got %v, want %v", name, got, want)
 	}
+}
+
+// brief tells arguments that may be very long.
+func brief(args ...any) string {
+	s := fmt.Sprint(args...)
+	return s[:min(len(s), 300)]
 }
 
 func isEmptySlice(x any) bool {
@@ -50,6 +57,39 @@ func guarded[E any](list []E, filler E) ([]E, func() bool) {
 	room := append(slices.Clone(list), filler, filler, filler)
 	before := slices.Clone(room)
 	return room[:len(list)], func() bool { return !reflect.DeepEqual(room, before) }
+}
+
+// guardedDeeply guards a list, and also what inner guards of each element.
+func guardedDeeply[E any](list []E, filler E, inner func(E) (E, func() bool)) ([]E, func() bool) {
+	var elements []E
+	var changes []func() bool
+	for _, x := range list {
+		element, changed := inner(x)
+		elements, changes = append(elements, element), append(changes, changed)
+	}
+	kept, changed := guarded(elements, filler)
+	changes = append(changes, changed)
+	return kept, func() bool {
+		return slices.ContainsFunc(changes, func(changed func() bool) bool { return changed() })
+	}
+}
+
+// checkResultsKept calls results three times, and overwrites the second ones: the others must be equal, and no argument may have changed.
+func checkResultsKept(t *testing.T, name string, results func() []any, changes ...func() bool) {
+	t.Helper()
+	want, second := results(), results()
+	if !reflect.DeepEqual(second, want) {
+		t.Errorf("%s: got %s, and then %s", name, brief(want), brief(second))
+	}
+	spoil(second)
+	for i, changed := range changes {
+		if changed() {
+			t.Errorf("%s: the argument %d has been changed, or is shared with a result", name, i)
+		}
+	}
+	if again := results(); !reflect.DeepEqual(again, want) {
+		t.Errorf("%s: after changed results got %s, want %s", name, brief(again), brief(want))
+	}
 }
 
 func guardedNet(n impl.Net) (impl.Net, func() bool) {

@@ -78,7 +78,7 @@ func TestValidSetting(t *testing.T) {
 		check(t, fmt.Sprint(setting), impl.ValidSetting(n, setting), true)
 	}
 	for _, setting := range invalidSettings() {
-		check(t, fmt.Sprintf("%.60v", setting), impl.ValidSetting(n, setting), false)
+		check(t, brief(setting), impl.ValidSetting(n, setting), false)
 	}
 	for _, bad := range invalidNets() {
 		for _, setting := range [][]int64{nil, {-1}, {-1, -1}, {-1, -1, -1}, {0, -1, -1}, slices.Repeat([]int64{-1}, 10), slices.Repeat([]int64{-1}, 11)} {
@@ -481,10 +481,10 @@ func TestSimpleWays(t *testing.T) {
 			ways := slices.Repeat([][]int64{{0}}, 20)
 			ways[place] = way
 			fit, code := impl.WaysFit(n, ways)
-			check(t, fmt.Sprintf("%.60v", way), []any{fit, code}, []any{false, int64(impl.ErrRange)})
+			check(t, brief(way), []any{fit, code}, []any{false, int64(impl.ErrRange)})
 		}
 		fit, code := impl.WaysFit(n, [][]int64{{2}, {4}, way})
-		check(t, fmt.Sprintf("%.60v", way), []any{fit, code}, []any{false, int64(impl.ErrRange)})
+		check(t, brief(way), []any{fit, code}, []any{false, int64(impl.ErrRange)})
 	}
 	parallel := net(t, "3: 0>1*1 0>1*1 1>2*1")
 	for _, way := range [][]int64{{0, 1}, {1, 0}, {0, 0}, {0, 1, 2}} {

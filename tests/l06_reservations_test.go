@@ -90,7 +90,7 @@ func TestValidTimes(t *testing.T) {
 		check(t, fmt.Sprint(times), impl.ValidTimes(times), true)
 	}
 	for _, times := range invalidTimes() {
-		check(t, fmt.Sprintf("%.60v", times), impl.ValidTimes(times), false)
+		check(t, brief(times), impl.ValidTimes(times), false)
 	}
 }
 
@@ -98,11 +98,11 @@ func TestValidRuns(t *testing.T) {
 	for _, runs := range cornerRuns() {
 		check(t, fmt.Sprint(runs), impl.ValidRuns(exampleTimes(), runs), true)
 		for _, times := range invalidTimes() {
-			check(t, fmt.Sprintf("%.60v %v", times, runs), impl.ValidRuns(times, runs), false)
+			check(t, brief(times, runs), impl.ValidRuns(times, runs), false)
 		}
 	}
 	for _, runs := range invalidRuns() {
-		check(t, fmt.Sprintf("%.60v", runs), impl.ValidRuns(exampleTimes(), runs), false)
+		check(t, brief(runs), impl.ValidRuns(exampleTimes(), runs), false)
 	}
 	// Each number of times has its own last tube.
 	for count := int64(1); count <= 24; count++ {

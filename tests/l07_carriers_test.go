@@ -111,7 +111,7 @@ func TestValidStock(t *testing.T) {
 		check(t, fmt.Sprint(stock), impl.ValidStock(stock), true)
 	}
 	for _, stock := range invalidStocks() {
-		check(t, fmt.Sprintf("%.60v", stock), impl.ValidStock(stock), false)
+		check(t, brief(stock), impl.ValidStock(stock), false)
 	}
 	for stations := range 13 {
 		check(t, fmt.Sprint(stations), impl.ValidStock(make([]int64, stations)), 2 <= stations && stations <= 10)
@@ -334,7 +334,7 @@ func TestValidSeals(t *testing.T) {
 		check(t, fmt.Sprint(list), impl.ValidSeals(list), true)
 	}
 	for _, list := range invalidSeals() {
-		check(t, fmt.Sprintf("%.60v", list), impl.ValidSeals(list), false)
+		check(t, brief(list), impl.ValidSeals(list), false)
 	}
 	for most := int64(-2); most < 1004; most++ {
 		for runs := most - 2; runs < most+3; runs++ {

@@ -3,7 +3,6 @@ package tests
 import (
 	"fmt"
 	"math/rand/v2"
-	"reflect"
 	"slices"
 	"testing"
 
@@ -416,16 +415,5 @@ func checkAddressesKept(t *testing.T, x addressList, seen string, k, rings, dist
 	t.Helper()
 	words, changed := guarded(x.words, "filler")
 	given := addressList{x.signs, words}
-	name := fmt.Sprintf("%.100v %.20q %d %d %d", x, seen, k, rings, distance)
-	results, want := addressResults(given, seen, k, rings, distance), addressResults(given, seen, k, rings, distance)
-	if !reflect.DeepEqual(results, want) {
-		t.Errorf("%s: got %.200v, and then %.200v", name, results, want)
-	}
-	spoil(results)
-	if changed() {
-		t.Errorf("%s: an argument has been changed, or is shared with a result", name)
-	}
-	if again := addressResults(given, seen, k, rings, distance); !reflect.DeepEqual(again, want) {
-		t.Errorf("%s: after changed results got %.200v, want %.200v", name, again, want)
-	}
+	checkResultsKept(t, brief(x, seen, k, rings, distance), func() []any { return addressResults(given, seen, k, rings, distance) }, changed)
 }

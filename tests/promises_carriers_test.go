@@ -4,7 +4,6 @@ import (
 	"fmt"
 	"math/big"
 	"math/rand/v2"
-	"reflect"
 	"slices"
 	"testing"
 
@@ -418,17 +417,7 @@ func TestCarriersKeepArguments(t *testing.T) {
 
 // guardedRows guards the list and each row in it.
 func guardedRows(rows [][]int64) ([][]int64, func() bool) {
-	var changes []func() bool
-	var inner [][]int64
-	for _, row := range rows {
-		kept, changed := guarded(row, 77)
-		inner = append(inner, kept)
-		changes = append(changes, changed)
-	}
-	list, changed := guarded(inner, []int64{77})
-	return list, func() bool {
-		return changed() || slices.ContainsFunc(changes, func(changed func() bool) bool { return changed() })
-	}
+	return guardedDeeply(rows, []int64{77}, func(row []int64) ([]int64, func() bool) { return guarded(row, 77) })
 }
 
 func checkCarriersKept(t *testing.T, x stockArgs, seals []impl.Seal, k int64) {
@@ -440,20 +429,8 @@ func checkCarriersKept(t *testing.T, x stockArgs, seals []impl.Seal, k int64) {
 	given.costs, changes[2] = guardedRows(x.costs)
 	given.moves, changes[3] = guarded(x.moves, move(77, 77, 77))
 	seals, changes[4] = guarded(seals, seal(77, 77))
-	name := fmt.Sprintf("%.200v %.60v %d", x, seals, k)
-	results, want := carrierResults(given, seals, k), carrierResults(given, seals, k)
-	if !reflect.DeepEqual(results, want) {
-		t.Errorf("%s: got %v, and then %v", name, results, want)
-	}
-	spoil(results)
-	for i, changed := range changes {
-		if changed() {
-			t.Errorf("%s: the argument %d has been changed, or is shared with a result", name, i)
-		}
-	}
-	if again := carrierResults(given, seals, k); !reflect.DeepEqual(again, want) {
-		t.Errorf("%s: after changed results got %v, want %v", name, again, want)
-	}
+	name := brief(x, seals, k)
+	checkResultsKept(t, name, func() []any { return carrierResults(given, seals, k) }, changes[:]...)
 }
 
 // Moves are joined in a map: its order is never seen in a result.

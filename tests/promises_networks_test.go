@@ -2,7 +2,6 @@ package tests
 
 import (
 	"fmt"
-	"reflect"
 	"slices"
 	"testing"
 
@@ -216,18 +215,7 @@ func checkKept(t *testing.T, n impl.Net, a, b int64) {
 	t.Helper()
 	given, netChanged := guardedNet(n)
 	way, wayChanged := guarded([]int64{a, 0, b}, 77)
-	results := networkResults(given, way, a, b)
-	want := networkResults(given, way, a, b)
-	if !reflect.DeepEqual(results, want) {
-		t.Errorf("%v %d %d: got %v, and then %v", n, a, b, results, want)
-	}
-	spoil(results)
-	if netChanged() || wayChanged() {
-		t.Errorf("%v %d %d: an argument has been changed, or is shared with a result", n, a, b)
-	}
-	if again := networkResults(given, way, a, b); !reflect.DeepEqual(again, want) {
-		t.Errorf("%v %d %d: after changed results got %v, want %v", n, a, b, again, want)
-	}
+	checkResultsKept(t, fmt.Sprint(n, a, b), func() []any { return networkResults(given, way, a, b) }, netChanged, wayChanged)
 }
 
 func TestWideCapacityIsKept(t *testing.T) {

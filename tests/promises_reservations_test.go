@@ -3,7 +3,6 @@ package tests
 import (
 	"fmt"
 	"math/rand/v2"
-	"reflect"
 	"runtime"
 	"slices"
 	"sync"
@@ -338,37 +337,20 @@ func TestReservationsKeepArguments(t *testing.T) {
 
 // guardedRuns guards the list and the way of each run in it.
 func guardedRuns(runs []impl.Run) ([]impl.Run, func() bool) {
-	var changes []func() bool
-	var inner []impl.Run
-	for _, run := range runs {
+	return guardedDeeply(runs, runFrom(7, 7), func(run impl.Run) (impl.Run, func() bool) {
 		way, changed := guarded(run.Way, 77)
-		inner = append(inner, impl.Run{Way: way, Start: run.Start})
-		changes = append(changes, changed)
-	}
-	list, changed := guarded(inner, runFrom(7, 7))
-	return list, func() bool {
-		return changed() || slices.ContainsFunc(changes, func(changed func() bool) bool { return changed() })
-	}
+		return runFrom(run.Start, way...), changed
+	})
 }
 
 func checkReservationsKept(t *testing.T, x runArgs) {
 	t.Helper()
 	given := x
-	var timesChanged, runsChanged, wayChanged func() bool
-	given.times, timesChanged = guarded(x.times, 77)
-	given.runs, runsChanged = guardedRuns(x.runs)
-	given.way, wayChanged = guarded(x.way, 77)
-	results, want := reservationResults(given), reservationResults(given)
-	if !reflect.DeepEqual(results, want) {
-		t.Errorf("%v: got %v, and then %v", x, results, want)
-	}
-	spoil(results)
-	if timesChanged() || runsChanged() || wayChanged() {
-		t.Errorf("%v: an argument has been changed, or is shared with a result", x)
-	}
-	if again := reservationResults(given); !reflect.DeepEqual(again, want) {
-		t.Errorf("%v: after changed results got %v, want %v", x, again, want)
-	}
+	var changes [3]func() bool
+	given.times, changes[0] = guarded(x.times, 77)
+	given.runs, changes[1] = guardedRuns(x.runs)
+	given.way, changes[2] = guarded(x.way, 77)
+	checkResultsKept(t, brief(x), func() []any { return reservationResults(given) }, changes[:]...)
 }
 
 // checkApart overwrites lists up to their capacities, and expects that each one keeps its own numbers.
@@ -408,10 +390,17 @@ func TestListsOfReservationsAreApart(t *testing.T) {
 // No goroutine outlives a call, whatever the arguments are.
 func TestNoGoroutineIsLeft(t *testing.T) {
 	r := rand.New(rand.NewPCG(13, 6))
+	checkNoGoroutineIsLeft(t, func() {
+		for _, x := range drawnRuns(14, 300) {
+			reservationResults(drawnRunArgs(r, x))
+		}
+	})
+}
+
+func checkNoGoroutineIsLeft(t *testing.T, calls func()) {
+	t.Helper()
 	before := runtime.NumGoroutine()
-	for _, x := range drawnRuns(14, 300) {
-		reservationResults(drawnRunArgs(r, x))
-	}
+	calls()
 	for range 500 {
 		if runtime.NumGoroutine() <= before {
 			return
@@ -426,15 +415,20 @@ func TestReservationsAtTheSameTime(t *testing.T) {
 	r := rand.New(rand.NewPCG(15, 6))
 	for _, x := range drawnRuns(16, 100) {
 		y := drawnRunArgs(r, x)
-		want := reservationResults(y)
-		var all [8][]any
-		var done sync.WaitGroup
-		for i := range all {
-			done.Go(func() { all[i] = reservationResults(y) })
-		}
-		done.Wait()
-		for _, got := range all {
-			check(t, x.String(), got, want)
-		}
+		checkAtTheSameTime(t, x.String(), func() []any { return reservationResults(y) })
+	}
+}
+
+func checkAtTheSameTime(t *testing.T, name string, results func() []any) {
+	t.Helper()
+	want := results()
+	var all [8][]any
+	var done sync.WaitGroup
+	for i := range all {
+		done.Go(func() { all[i] = results() })
+	}
+	done.Wait()
+	for _, got := range all {
+		check(t, name, got, want)
 	}
 }

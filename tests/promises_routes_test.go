@@ -3,7 +3,6 @@ package tests
 import (
 	"fmt"
 	"math/rand/v2"
-	"reflect"
 	"slices"
 	"testing"
 
@@ -337,17 +336,7 @@ func checkRoutesKept(t *testing.T, n impl.Net, setting, a, b []int64, from, to i
 	setting, settingChanged := guarded(setting, 77)
 	a, aChanged := guarded(a, 77)
 	b, bChanged := guarded(b, 77)
-	results, want := routeResults(given, setting, a, b, from, to), routeResults(given, setting, a, b, from, to)
-	if !reflect.DeepEqual(results, want) {
-		t.Errorf("%s: got %v, and then %v", name, results, want)
-	}
-	spoil(results)
-	if netChanged() || settingChanged() || aChanged() || bChanged() {
-		t.Errorf("%s: an argument has been changed, or is shared with a result", name)
-	}
-	if again := routeResults(given, setting, a, b, from, to); !reflect.DeepEqual(again, want) {
-		t.Errorf("%s: after changed results got %v, want %v", name, again, want)
-	}
+	checkResultsKept(t, name, func() []any { return routeResults(given, setting, a, b, from, to) }, netChanged, settingChanged, aChanged, bChanged)
 }
 
 func TestWaysOfAListAreKept(t *testing.T) {

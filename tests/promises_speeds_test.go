@@ -4,7 +4,6 @@ import (
 	"fmt"
 	"math/big"
 	"math/rand/v2"
-	"reflect"
 	"slices"
 	"testing"
 
@@ -249,14 +248,7 @@ func TestSpeedsKeepArguments(t *testing.T) {
 		one := append(invalidRides(), drawnRides(9, 60)...)[i%60]
 		for _, ticks := range numbers {
 			given, changed := guarded(list, impl.Ride{Length: 7, Weight: 7, Pressure: 7, Bends: 7})
-			results, want := speedResults(given, one, ticks), speedResults(given, one, ticks)
-			if !reflect.DeepEqual(results, want) {
-				t.Errorf("%v %v %d: got %v, and then %v", list, one, ticks, results, want)
-			}
-			spoil(results)
-			if again := speedResults(given, one, ticks); changed() || !reflect.DeepEqual(again, want) {
-				t.Errorf("%v %v %d: an argument has been changed, or is shared with a result", list, one, ticks)
-			}
+			checkResultsKept(t, brief(list, one, ticks), func() []any { return speedResults(given, one, ticks) }, changed)
 		}
 	}
 }
