@@ -189,6 +189,8 @@ func spoil(results []any) {
 			fill(list[:cap(list)], move(-99, -99, -99))
 		case []impl.Seal:
 			fill(list[:cap(list)], seal(-99, -99))
+		case []impl.Guest:
+			fill(list[:cap(list)], guest(-99, -99))
 		case impl.Zoned:
 			fill(list.Of[:cap(list.Of)], -99)
 			fill(list.Changes[:cap(list.Changes)], change(-99, -99, -99))
